@@ -131,6 +131,9 @@ func modelLink(r []byte, root, page, leaf int) ([]byte, api.Errno) {
 		return nil, api.ErrRange
 	}
 	l := with(r, root, page/8, 256*leaf+1)
+	if _, whole := asked(r, leaf, 15); !whole {
+		return l, api.OK
+	}
 	for i := range l {
 		if i/64 == leaf {
 			l[i] = 0
@@ -359,17 +362,33 @@ func TestListsThatEndSomewhere(t *testing.T) {
 	}
 }
 
-func TestLinkNeedsTheTableOfTheLeafAndClearsWhatThereIsOfItsFrame(t *testing.T) {
+func TestLinkNeedsTheTableOfTheLeafAndClearsOnlyAWholeFrame(t *testing.T) {
 	r := counting(all)
 	wantLink(t, r[:3*64+31], 2, 13, 3, nil, api.ErrRange)
-	for size := 3*64 + 32; size <= 4*64; size++ {
+	for size := 3*64 + 32; size < 4*64; size++ {
+		wantLink(t, r[:size], 2, 13, 3, with(r[:size], 2, 1, 3<<8|1), api.OK)
+	}
+	for size := 4 * 64; size <= 5*64; size++ {
 		want := with(r[:size], 2, 1, 3<<8|1)
-		clear(want[3*64:])
+		clear(want[3*64 : 4*64])
 		wantLink(t, r[:size], 2, 13, 3, want, api.OK)
 	}
-	want := with(r, 2, 1, 3<<8|1)
-	clear(want[3*64 : 4*64])
-	wantLink(t, r, 2, 13, 3, want, api.OK)
+}
+
+func TestLinkOfAPageKeepsTheNumbersOfALeafThatIsNotWhole(t *testing.T) {
+	r := with(counting(4*64-1), 3, 5, 9<<8|1)
+	l, e := table.Link(r, 2, 13, 3)
+	wantLeaf(t, must(t, l, e), 2, 13, 3, api.OK)
+	wantGet(t, l, 2, 13, here(9), api.OK)
+}
+
+func TestLinkSeesNoWholeFrameInSpareRoom(t *testing.T) {
+	r := slices.Repeat([]byte{255}, 128)
+	before := slices.Clone(r)
+	wantLink(t, r[:96], 0, 0, 1, with(before[:96], 0, 0, 1<<8|1), api.OK)
+	if !bytes.Equal(r, before) {
+		t.Error("what was handed in, or the room behind it, was changed")
+	}
 }
 
 func TestLinkNeedsOnlyOneNumberOfTheRoot(t *testing.T) {
