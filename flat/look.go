@@ -1,6 +1,8 @@
 package flat
 
 import (
+	"iter"
+
 	"framewarden/api"
 	"framewarden/check"
 	"framewarden/region"
@@ -27,22 +29,23 @@ func wayOf(kind int) int {
 	return api.Write
 }
 
-// look does what op does with p's memory, unless a page of it faults.
-func (p *process) look(op api.Op) api.Ans {
+// look does what op does with its process's memory, unless a page of it
+// faults.
+func (w *world) look(op api.Op) api.Ans {
 	from, to, e := touched(op)
 	if e != api.OK {
 		return api.Ans{Err: e}
 	}
-	if f, at := p.fault(op, from, to); f != 0 {
+	if f, at := w.fault(op, from, to); f != 0 {
 		return api.Ans{Err: api.ErrFault, Fault: f, At: at}
 	}
 	switch op.Kind {
 	case api.OpTag:
-		p.mark(from, to, op.Tag)
+		w.mark(op, from, to)
 	case api.OpStore:
-		p.store(from, to, op.Value)
+		w.store(op, from, to)
 	default:
-		return api.Ans{Value: p.load(from, to)}
+		return api.Ans{Value: w.load(op, from, to)}
 	}
 	return api.Ans{}
 }
@@ -63,22 +66,35 @@ func touched(op api.Op) (int, int, api.Errno) {
 	return op.Addr, op.Addr + many*each, api.OK
 }
 
+// byPage tells which of addresses from to to - 1 are in each page, in turn:
+// the first one, and the one behind the last.
+func byPage(from, to int) iter.Seq2[int, int] {
+	return func(yield func(int, int) bool) {
+		for at := from; at < to; {
+			end := min(to, (at/api.PageSize+1)*api.PageSize)
+			if !yield(at, end) {
+				return
+			}
+			at = end
+		}
+	}
+}
+
 // fault answers the first fault of op at addresses from to to - 1, page by
 // page, and where it is.
-func (p *process) fault(op api.Op, from, to int) (int, int) {
-	for from < to {
-		end := min(to, (from/api.PageSize+1)*api.PageSize)
-		if f, at := p.pageFault(op, from, end); f != 0 {
+func (w *world) fault(op api.Op, from, to int) (int, int) {
+	for at, end := range byPage(from, to) {
+		if f, at := w.pageFault(op, at, end); f != 0 {
 			return f, at
 		}
-		from = end
 	}
 	return 0, 0
 }
 
 // pageFault answers the fault of op at addresses from to to - 1, which are of
 // one page, and where it is.
-func (p *process) pageFault(op api.Op, from, to int) (int, int) {
+func (w *world) pageFault(op api.Op, from, to int) (int, int) {
+	p := &w.procs[op.Proc]
 	a, ok := region.Find(p.regions, from/api.PageSize)
 	if !ok {
 		return api.FaultMap, from
@@ -94,36 +110,36 @@ func (p *process) pageFault(op api.Op, from, to int) (int, int) {
 		// What tags there were does not matter: others take their place.
 		return 0, 0
 	}
-	first := from / api.Granule
-	f, i := check.Tags(a, way, p.tags[first:(to-1)/api.Granule+1], op.Tag)
+	first, last := from/api.Granule, (to-1)/api.Granule
+	tags := w.memory.Tags(op.Proc, first, last-first+1)
+	f, i := check.Tags(a, way, tags, op.Tag)
 	if f == 0 {
 		return 0, 0
 	}
 	return f, max(from, (first+i)*api.Granule)
 }
 
-// mark gives the granules at addresses from to to - 1 a tag.
-func (p *process) mark(from, to, tag int) {
-	for g := from / api.Granule; g < to/api.Granule; g++ {
-		p.tags[g] = tag
+// mark gives the granules at addresses from to to - 1 op's tag.
+func (w *world) mark(op api.Op, from, to int) {
+	for at, end := range byPage(from, to) {
+		w.memory.Mark(op.Proc, at/api.Granule, (end-at)/api.Granule, op.Tag)
 	}
 }
 
-// store puts the lowest bytes of v at addresses from to to - 1, the least
-// first.
-func (p *process) store(from, to, v int) {
-	for at := from; at < to; at++ {
-		p.bytes[at] = byte(v)
-		v >>= 8
+// store puts the lowest bytes of op's value at addresses from to to - 1, the
+// least first.
+func (w *world) store(op api.Op, from, to int) {
+	for at, end := range byPage(from, to) {
+		w.memory.Store(op.Proc, at, end-at, op.Value>>(8*(at-from)))
 	}
 }
 
 // load answers the number that the bytes at addresses from to to - 1 are, the
 // least first.
-func (p *process) load(from, to int) int {
+func (w *world) load(op api.Op, from, to int) int {
 	v := 0
-	for i, b := range p.bytes[from:to] {
-		v |= int(b) << (8 * i)
+	for at, end := range byPage(from, to) {
+		v |= w.memory.Load(op.Proc, at, end-at) << (8 * (at - from))
 	}
 	return v
 }

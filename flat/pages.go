@@ -27,21 +27,24 @@ func (w *world) mapNew(p *process, op api.Op) (int, api.Errno) {
 	if e := p.keep(region.Add(p.regions, api.Region{From: from, To: to, Attr: a})); e != api.OK {
 		return 0, e
 	}
-	// What pages had that were here before is not to be seen.
-	clear(p.bytes[from*api.PageSize : to*api.PageSize])
-	clear(p.tags[from*api.Grains : to*api.Grains])
+	// Memory need not be told: where no page was, all is 0.
 	return from, api.OK
 }
 
 // unmap takes pages from p, as far as they are there.
-func (p *process) unmap(op api.Op) api.Errno {
+func (w *world) unmap(p *process, op api.Op) api.Errno {
 	if !isSpan(op) {
 		return api.ErrRange
 	}
 	if p.isSealed(op) {
 		return api.ErrHeld
 	}
-	return p.keep(region.Cut(p.regions, op.Page, op.Page+op.Count))
+	to := op.Page + op.Count
+	if e := p.keep(region.Cut(p.regions, op.Page, to)); e != api.OK {
+		return e
+	}
+	w.memory.Cut(op.Proc, op.Page, to)
+	return api.OK
 }
 
 // protect gives pages of p other rights, and another key.
